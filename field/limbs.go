@@ -191,15 +191,16 @@ func takeAway(left, y []uint64) uint64 {
 	n := len(y)
 	times := guess(left[n], left[n-1], left[n-2], y[n-1], y[n-2])
 	subProduct(left, y, []uint64{times})
-	// A guess that was too great, by 1 or 2, has wrapped around below 0.
-	for left[n] != 0 {
+	// A guess is too great by 1 at most, and has then wrapped around below 0.
+	if left[n] != 0 {
 		times--
 		addProduct(left, y, []uint64{1})
 	}
 	return times
 }
 
-// guess returns the quotient of a2 a1 a0 by b1 b0, made of limbs, but at most 2^64 - 1; a2 a1 is less than b1 b0, or begins with it.
+// guess returns the quotient of the numbers with the limbs a2 a1 a0 and b1 b0, but at most 2^64 - 1.
+// The first binary digit of b1 is 1, and a2 a1 is at most b1 b0.
 func guess(a2, a1, a0, b1, b0 uint64) uint64 {
 	if a2 >= b1 {
 		return 1<<64 - 1

@@ -113,6 +113,56 @@ func checkPowers(t *testing.T, f *table, shift int, powers []span) {
 	}
 }
 
+// Powers of a number are between their bounds, when all of them have to be rounded.
+func TestNearPowers(t *testing.T) {
+	const shift = 70
+	root := natural(3).up(shift - 1).add(natural(1))
+	power := natural(1)
+	for i, p := range nearPowers(span{root, root}, 20, shift) {
+		by := max(i-1, 0) * shift
+		if i == 0 {
+			power = power.up(shift)
+		} else if i == 1 {
+			power = root
+		} else {
+			power = power.mul(root)
+		}
+		if p.low.up(by).cmp(power) > 0 || p.high.up(by).cmp(power) < 0 {
+			t.Errorf("the bounds of the power %d do not hold", i)
+		}
+	}
+}
+
+// Bounds of numbers, of both signs, hold: nearer ones are never outside of them.
+func TestSpans(t *testing.T) {
+	r := rand.New(rand.NewSource(12))
+	eachTable(t, func(t *testing.T, f *table) {
+		for range 10 {
+			x := &number{f, make([]whole, f.degree), natural(1)}
+			for i := range x.coefficients {
+				x.coefficients[i] = anyWhole(r, 3)
+			}
+			if x.rational() {
+				continue
+			}
+			var last span
+			for shift, bounds := range x.spans {
+				if bounds.low.cmp(bounds.high) >= 0 {
+					t.Fatalf("level %d: the upper bound is not above the lower one", f.level)
+				}
+				if shift > firstBits {
+					if last.low.up(shift/2).cmp(bounds.high) > 0 || last.high.up(shift/2).cmp(bounds.low) < 0 {
+						t.Fatalf("level %d: nearer bounds are outside", f.level)
+					}
+				}
+				if last = bounds; shift == 4*firstBits {
+					break
+				}
+			}
+		}
+	})
+}
+
 // exact returns a positive multiple of the value of a polynomial at x by 2^shift.
 func exact(polynomial []int64, x whole, shift int) whole {
 	var sum whole
@@ -140,14 +190,18 @@ func TestCosine(t *testing.T) {
 	})
 }
 
-// Products of numbers with the longest limbs, against those of the library.
+// Products, of the greatest numbers of so many limbs too, against those of the library.
 func TestProducts(t *testing.T) {
 	r := rand.New(rand.NewSource(10))
+	greatest := natural(1).up(128).sub(natural(1))
 	eachTable(t, func(t *testing.T, f *table) {
-		for range 10 {
+		for count := range 10 {
 			x, y := make([]whole, f.degree), make([]whole, f.degree)
 			for i := range f.degree {
 				x[i], y[i] = anyWhole(r, 3), anyWhole(r, 2)
+				if count == 0 {
+					x[i], y[i] = greatest, greatest.neg()
+				}
 			}
 			want := make([]*big.Int, 2*f.degree-1)
 			for i := range want {
@@ -189,6 +243,50 @@ func TestQuotients(t *testing.T) {
 			t.Errorf("level %d: what is no quotient is taken for one", f.level)
 		}
 	})
+}
+
+// What is a quotient modulo a power of the prime alone is none.
+func TestQuotientsModulo(t *testing.T) {
+	f := newTable(7)
+	y := []whole{small(2), small(1), small(-3)}
+	prime, _ := f.invert(y)
+	modulus := prime
+	for range 4 {
+		modulus = modulus.mul(modulus)
+		z := []whole{modulus.mul(small(7)).add(natural(1)), modulus, small(0)}
+		x := &number{f, f.product(y, z), natural(1)}
+		got := x.quotient(&number{f, y, natural(1)}).lowest()
+		for i, c := range got.coefficients {
+			wantWhole(t, "quotient", c, big1(t, z[i]))
+		}
+	}
+}
+
+// Fractions that are short are found by what they are modulo a number; there are none for most numbers.
+func TestFraction(t *testing.T) {
+	r := rand.New(rand.NewSource(13))
+	modulus, limit := natural(1).up(521).sub(natural(1)), 200
+	number := func(bits int) whole {
+		limbs := make([]uint64, 9)
+		for i := range limbs {
+			limbs[i] = r.Uint64()
+		}
+		return whole{false, trim(limbs)}.mod(natural(1).up(bits - 1)).add(natural(1).up(bits - 1))
+	}
+	for range 500 {
+		above, below := number(1+r.Intn(limit)), number(1+r.Intn(limit))
+		if r.Intn(2) == 0 {
+			above = above.neg()
+		}
+		inverse, _ := readNatural(new(big.Int).ModInverse(big1(t, below), big1(t, modulus)).String())
+		n, m, ok := fraction(above.mul(inverse).mod(modulus), modulus, limit)
+		if !ok || m.sign() <= 0 || n.mul(below).cmp(m.mul(above)) != 0 {
+			t.Fatal(above.text(), below.text(), n.text(), m.text(), ok)
+		}
+		if n, m, ok := fraction(number(520), modulus, limit); ok {
+			t.Fatal(n.text(), m.text())
+		}
+	}
 }
 
 // Numbers that have no inverse modulo the first primes are divided by modulo other ones.
