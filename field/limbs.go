@@ -190,11 +190,11 @@ func divLimbs(x, y []uint64) (quotient, rest []uint64) {
 func takeAway(left, y []uint64) uint64 {
 	n := len(y)
 	times := guess(left[n], left[n-1], left[n-2], y[n-1], y[n-2])
-	subProduct(left, y, []uint64{times})
+	subProduct(left, []uint64{times}, y)
 	// A guess is too great by 1 at most, and has then wrapped around below 0.
 	if left[n] != 0 {
 		times--
-		addProduct(left, y, []uint64{1})
+		addProduct(left, []uint64{1}, y)
 	}
 	return times
 }
