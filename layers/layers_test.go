@@ -144,7 +144,7 @@ func TestLimits(t *testing.T) {
 		{api.MaxWay, 10}, {api.MaxLines, 60}, {api.MaxBy, 1000}, {api.MaxClosed, 6}, {api.MaxFigure, 8}, {api.MaxCoef, 3},
 		{api.MaxAround, 30}, {api.MaxMoves, 4}, {api.MaxPoints, 200}, {api.MaxIndex, 5}, {api.MaxGenus, 1000}, {api.MaxModels, 12},
 		{api.MaxSteps, 2000}, {api.MaxRow, 200}, {api.Rest, 0}, {api.StepOut, 1}, {api.StepIn, 2}, {api.StepTurn, 3},
-		{int(api.OK), 0}, {int(api.ErrArg), 1}, {int(api.ErrForm), 2}, {int(api.ErrFull), 4}, {int(api.ErrField), 5}, {int(api.ErrProof), 20}, {int(api.ErrAction), 30},
+		{int(api.OK), 0}, {int(api.ErrArg), 1}, {int(api.ErrForm), 2}, {int(api.ErrFull), 4}, {int(api.ErrField), 5}, {int(api.ErrApart), 7}, {int(api.ErrProof), 20}, {int(api.ErrAction), 30},
 	} {
 		if c.got != c.want {
 			t.Errorf("%d, want %d", c.got, c.want)
